@@ -17,6 +17,11 @@ func (w bitWord) bitAt(place int) int {
 	return int(w >> (wordBits - 1 - place) & 1)
 }
 
+// numberAt returns the number whose digits are the bits from a place on, the first one the highest.
+func (w bitWord) numberAt(place int, count int) int {
+	return int(w >> (wordBits - count - place) & (1<<count - 1))
+}
+
 func (w bitWord) withBit(place int, bit int) bitWord {
 	return w | bitWord(bit)<<(wordBits-1-place)
 }

@@ -410,7 +410,7 @@ func TestAllSyndromesAreDecoded(t *testing.T) {
 		decoded := 0
 		eachPolynomial(4, func(check []int) {
 			word := slices.Concat(data, sumOf(code[11:], check))
-			wrong, ok := near[[4]int(impl.WordSyndromes(word))]
+			wrong, ok := near[[4]int(modelSyndromes(word))]
 			if !ok {
 				wantNotDecoded(t, word)
 				return

@@ -32,12 +32,12 @@ func mixedBytes(seed int, length int) []byte {
 	return data
 }
 
-func repeated(value int, length int) []int {
-	return slices.Repeat([]int{value}, length)
+func repeated[T any](value T, length int) []T {
+	return slices.Repeat([]T{value}, length)
 }
 
-// changed returns a copy of a list with another number at one place.
-func changed(list []int, place int, value int) []int {
+// changed returns a copy of a list with another value at one place.
+func changed[T any](list []T, place int, value T) []T {
 	list = slices.Clone(list)
 	list[place] = value
 	return list

@@ -24,12 +24,37 @@ func mixedBits(seed int, length int) []int {
 	return list
 }
 
+// mixedNumbers has numbers in -level..level.
+func mixedNumbers(seed int, length int, level int) []int {
+	list := make([]int, length)
+	for k := range list {
+		list[k] = int(mixed(seed, k)%uint64(2*level+1)) - level
+	}
+	return list
+}
+
 func mixedBytes(seed int, length int) []byte {
 	data := make([]byte, length)
 	for k := range data {
 		data[k] = byte(mixed(seed, k))
 	}
 	return data
+}
+
+func negated(list []int) []int {
+	list = slices.Clone(list)
+	for k := range list {
+		list[k] = -list[k]
+	}
+	return list
+}
+
+func numberSum(list []int) int {
+	sum := 0
+	for _, number := range list {
+		sum += number
+	}
+	return sum
 }
 
 func repeated[T any](value T, length int) []T {

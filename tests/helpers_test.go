@@ -105,3 +105,37 @@ func overwrite[T any](list []T, value T) {
 		list[k] = value
 	}
 }
+
+func copyOfRows[T any](table [][]T) [][]T {
+	copied := make([][]T, len(table))
+	for station, row := range table {
+		copied[station] = slices.Clone(row)
+	}
+	return copied
+}
+
+// withRow has another row.
+func withRow[T any](table [][]T, station int, row []T) [][]T {
+	table = copyOfRows(table)
+	table[station] = row
+	return table
+}
+
+func withoutStation[T any](table [][]T, station int) [][]T {
+	table = slices.Delete(copyOfRows(table), station, station+1)
+	for k := range table {
+		table[k] = slices.Delete(table[k], station, station+1)
+	}
+	return table
+}
+
+// guardedRows has guarded rows, and guarded values in every row.
+func guardedRows[T any](table [][]T, guard T) ([][]T, [][]T) {
+	wholes := make([][]T, len(table))
+	rows := make([][]T, len(table))
+	for station, row := range table {
+		rows[station], wholes[station] = guarded(row, guard)
+	}
+	part, _ := guarded(rows, []T{guard})
+	return part, wholes
+}

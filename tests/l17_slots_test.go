@@ -36,17 +36,9 @@ func allConflicts(count int) [][]bool {
 	return table
 }
 
-func copyOfConflicts(table [][]bool) [][]bool {
-	copied := make([][]bool, len(table))
-	for station, row := range table {
-		copied[station] = slices.Clone(row)
-	}
-	return copied
-}
-
 // withConflicts adds mutual conflicts, written as pairs of stations one after the other.
 func withConflicts(table [][]bool, stations ...int) [][]bool {
-	table = copyOfConflicts(table)
+	table = copyOfRows(table)
 	for pair := range slices.Chunk(stations, 2) {
 		table[pair[0]][pair[1]] = true
 		table[pair[1]][pair[0]] = true
@@ -56,7 +48,7 @@ func withConflicts(table [][]bool, stations ...int) [][]bool {
 
 // withoutConflicts is the opposite of withConflicts.
 func withoutConflicts(table [][]bool, stations ...int) [][]bool {
-	table = copyOfConflicts(table)
+	table = copyOfRows(table)
 	for pair := range slices.Chunk(stations, 2) {
 		table[pair[0]][pair[1]] = false
 		table[pair[1]][pair[0]] = false
@@ -66,23 +58,8 @@ func withoutConflicts(table [][]bool, stations ...int) [][]bool {
 
 // withTurned has the opposite value at one place only.
 func withTurned(table [][]bool, row int, column int) [][]bool {
-	table = copyOfConflicts(table)
+	table = copyOfRows(table)
 	table[row][column] = !table[row][column]
-	return table
-}
-
-// withRow has another row.
-func withRow(table [][]bool, station int, row []bool) [][]bool {
-	table = copyOfConflicts(table)
-	table[station] = row
-	return table
-}
-
-func withoutStation(table [][]bool, station int) [][]bool {
-	table = slices.Delete(copyOfConflicts(table), station, station+1)
-	for k := range table {
-		table[k] = slices.Delete(table[k], station, station+1)
-	}
 	return table
 }
 
@@ -518,7 +495,7 @@ func TestTablesInLargerTables(t *testing.T) {
 			for station := range part {
 				part[station] = part[station][:count]
 			}
-			want := copyOfConflicts(part)
+			want := copyOfRows(part)
 			wantConflictsValid(t, part, true)
 			wantGreedy(t, part, modelGreedy(want)...)
 			wantGroup(t, part, modelGroup(want))
@@ -1065,21 +1042,10 @@ func TestGroupsOfEqualSize(t *testing.T) {
 	wantGroup(t, withoutStation(pairs, 9), 5)
 }
 
-// guardedConflicts has guarded rows, and guarded values in every row.
-func guardedConflicts(table [][]bool, guard bool) ([][]bool, [][]bool) {
-	wholes := make([][]bool, len(table))
-	rows := make([][]bool, len(table))
-	for station, row := range table {
-		rows[station], wholes[station] = guarded(row, guard)
-	}
-	part, _ := guarded(rows, []bool{guard})
-	return part, wholes
-}
-
 func TestScheduleArgumentsAreNotWritten(t *testing.T) {
 	check := func(table [][]bool) {
 		for _, guard := range []bool{false, true} {
-			part, wholes := guardedConflicts(table, guard)
+			part, wholes := guardedRows(table, guard)
 			slots, whole := guarded(places(len(table)), -3)
 			impl.ConflictsValid(part)
 			impl.SlotsValid(part, slots)
